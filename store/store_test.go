@@ -1053,3 +1053,36 @@ func TestSame(t *testing.T) {
 		t.Error("calls that are refused change something")
 	}
 }
+
+// wantPeak fails, if other numbers are the greatest of all heads.
+func wantPeak(t *testing.T, what string, s *store.Store, seq, gen int) {
+	t.Helper()
+	if a, b := s.Greatest(); a != seq || b != gen {
+		t.Errorf("%s: Greatest: %d, %d, not %d, %d", what, a, b, seq, gen)
+	}
+}
+
+// What maplog's P17.1 leans on: the greatest Seq and Gen of all heads that stood in a store, or were put there: those that were dropped, too, of marked blocks, too, and those of a page that may be whole though the power went; not those of a Put that is refused.
+func TestPeak(t *testing.T) {
+	c := chip(t, nil, api.Mishap{At: 3, Kind: api.Fails, Bytes: 9}, api.Mishap{At: 10, Kind: api.Dark, Bytes: 9999})
+	s := over(t, c)
+	wantPeak(t, "new", s, 0, 0)
+	page := func(seq, gen int) put { return put{api.Head{Kind: api.KindData, Seq: seq, Gen: gen}, some(size, seq)} }
+	wantPut(t, "first", s, page(70, 2), 0)
+	wantPut(t, "second", s, page(60, 5), 1)
+	wantPeak(t, "put", s, 70, 5)
+	wantNoPut(t, "refused", s, page(greatestSeq+1, 9), api.ErrInvalid)
+	wantNoPut(t, "refused", s, put{page(99, 9).h, nil}, api.ErrInvalid)
+	wantPeak(t, "refused", s, 70, 5)
+	wantPut(t, "past a block that fails", s, page(71, 3), pages)
+	wantCode(t, "Drop", s.Drop(pages), api.OK)
+	wantPeak(t, "dropped", s, 71, 5)
+	s = over(t, c) // the 6th to the 9th operation
+	wantPeak(t, "found", s, 71, 5)
+	wantNoPut(t, "goes dark", s, page(80, 8), api.ErrDark)
+	wantPeak(t, "goes dark", s, 80, 8)
+	wantNoPut(t, "in the dark", s, page(90, 9), api.ErrDark)
+	wantPeak(t, "in the dark", s, 80, 8)
+	wantCode(t, "Boot", c.Boot(), api.OK)
+	wantPeak(t, "behind a crash", over(t, c), 80, 8)
+}
